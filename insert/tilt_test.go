@@ -232,10 +232,19 @@ func TestTiltsOfManyWalls(t *testing.T) {
 		r.Shuffle(len(walls), func(i, k int) { walls[i], walls[k] = walls[k], walls[i] })
 		compareTilts(t, walls[:between(r, 30, 64)], between(r, 1, 8))
 	}
-	// Long thin triangles, whose corners have the greatest numbers.
-	for range 200 {
-		a, b := between(r, 990, 1000), between(r, 990, 1000)
-		compareTilts(t, []api.Cell{at(a, b, 1), at(-b, -a, between(r, -1, 1000)), at(-a, -b, 1000), at(999, -1000, between(r, 990, 1000))}, 8)
+}
+
+// TestLargestCorners has walls whose corners have the greatest numbers: products of three of them do not fit 64 bits.
+func TestLargestCorners(t *testing.T) {
+	compareTilts(t, []api.Cell{at(-984, 972, 992), at(993, -982, 973), at(979, 985, 983), at(-975, -991, 987), at(988, -956, 983), at(-994, 996, 997)}, 8)
+	r := dice()
+	large := func() int { return between(r, 940, 1000) }
+	for range 300 {
+		var walls []api.Cell
+		for range 6 {
+			walls = append(walls, at(large()*(1-2*r.IntN(2)), large()*(1-2*r.IntN(2)), large()))
+		}
+		compareTilts(t, walls, 8)
 	}
 }
 

@@ -47,7 +47,7 @@ func obstacleOf(base []api.Cell) obstacle {
 	for _, c := range base {
 		o.has[c] = true
 	}
-	// No cells have no box: what asks for it looks at the cells first.
+	// Whatever the box of no cells is, nothing is found in it.
 	o.box, _ = grid.Bound(base)
 	return o
 }
@@ -64,10 +64,7 @@ func (o obstacle) meet(part []api.Cell, by api.Cell) (api.Cell, bool) {
 
 // stop returns the first number of steps after which a part hits an obstacle, and the least common cell then; false if it gets out.
 func (o obstacle) stop(part []api.Cell, d api.Cell) (int, api.Cell, bool) {
-	box, e := grid.Bound(part)
-	if e != api.OK || len(o.has) == 0 {
-		return 0, api.Cell{}, false
-	}
+	box, _ := grid.Bound(part)
 	// Only with these shifts do both boxes overlap.
 	near := grid.Box{Low: minus(o.box.Low, box.High), High: minus(o.box.High, box.Low)}
 	for k := max(near.Low.Z, 0); k <= near.High.Z; k++ {

@@ -223,6 +223,8 @@ func TestLimitsOfUndercuts(t *testing.T) {
 		{"a block of 100000", []api.Cell{at(0, 0, 0), at(99, 99, 9)}, 9, api.OK, 11, api.OK},
 		{"a block of 100000 at the border", []api.Cell{at(-1000, -1000, -1000), at(-1, -901, -1000)}, 0, api.OK, 2, api.OK},
 		{"a block of 100100", tooLarge(), 0, api.ErrLarge, 0, api.ErrLarge},
+		{"a wide block of 100100", []api.Cell{at(0, 0, 0), at(1000, 99, 0)}, 0, api.ErrLarge, 0, api.ErrLarge},
+		{"a high block of 100050", []api.Cell{at(0, 0, -1000), at(24, 1, 1000)}, 0, api.ErrLarge, 0, api.ErrLarge},
 		{"the greatest block", []api.Cell{at(-1000, -1000, -1000), at(1000, 1000, 1000)}, 0, api.ErrLarge, 0, api.ErrLarge},
 		{"a high block", []api.Cell{at(0, 0, -1000), at(48, 0, 1000)}, 2000, api.OK, 2002, api.OK},
 		{"a block of 4096 undercuts and more that is too large", append(roof(17, 250), at(1000, 1000, 1000)), 0, api.ErrLarge, 0, api.ErrLarge},
