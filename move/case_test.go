@@ -38,6 +38,7 @@ func TestCasesAtTheLimits(t *testing.T) {
 		{"the greatest tooth", alone(at(0, 0, 0), at(4, 0, 999), move.Tooth{Name: "a", Cells: row(4096)})},
 		{"far cells that are shifted back", alone(at(0, 0, 0), at(0, 0, 0), move.Tooth{Name: "a", Cells: []api.Cell{at(1000, -1000, 1000)}, From: to(-1000, 1000, -1000), To: to(-1000, -1000, -1000, 1)})},
 		{"turned to what is in the box", alone(at(0, 0, 0), at(0, 1, 0), move.Tooth{Name: "a", Cells: []api.Cell{at(0, 0, 0), at(1, 0, 0)}, From: to(0, 0, 0, 1), To: to(0, 1, 0, 3)})},
+		{"a tooth as tall as the box", alone(at(3, 3, 3), at(3, 3, 5), move.Tooth{Name: "a", Cells: row(3), From: to(3, 3, 3), To: to(3, 3, 3, 1)})},
 		{"one step more than the gap", caseE(func(c *move.Case) { c.Gap, c.Teeth[0].To, c.Teeth[1].From = 1, to(3, 1, 0), to(2, 0, 0) })},
 		{"names that differ in a letter's size", caseE(func(c *move.Case) { c.Teeth[1].Name = "A" })},
 		{"fixed teeth", caseE(func(c *move.Case) { c.Teeth = []move.Tooth{fixed("a", to(1, 1, 0, 2)), fixed("b1", to(2, 0, 0))} })},
@@ -108,6 +109,10 @@ func TestErrorsOfStates(t *testing.T) {
 		refused(t, "Distance: "+s.what, n, e, s.e)
 		same(t, "CheckStage from: "+s.what, move.CheckStage(c, s.arg, nil), s.e)
 		same(t, "CheckStage to: "+s.what, move.CheckStage(c, []move.Place{to(9, 1, 0), to(0, 0, 0), to(5, 0, 0)}, s.arg), s.e)
+	}
+	tall := alone(at(0, 0, 0), at(0, 0, 5), move.Tooth{Name: "a", Cells: row(3), To: to(0, 0, 3)})
+	for z, wanted := range map[int]api.Errno{-3: api.ErrRange, -1: api.ErrRange, 0: api.OK, 3: api.OK, 4: api.ErrRange, 6: api.ErrRange} {
+		same(t, "a tall tooth", move.CheckState(tall, []move.Place{to(0, 0, z)}), wanted)
 	}
 	same(t, "two steps apart", move.CheckState(c, []move.Place{to(0, 0, 0), to(1, 1, 0), to(3, 1, 0)}), api.OK)
 	same(t, "turns that do nothing, and fixed teeth elsewhere", move.CheckState(caseF(1), []move.Place{to(2, 0, 0, 1), to(0, 0, 0, 3)}), api.OK)

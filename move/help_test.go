@@ -406,7 +406,8 @@ func randomCase(r *rand.Rand) move.Case {
 			tooth.From, tooth.To = from[i], wanted[i]
 			if tooth.Fixed {
 				tooth.To = tooth.From
-			} else if c.Turn == 0 {
+			} else if c.Turn == 0 && r.IntN(4) > 0 {
+				// Most of these cases have a plan, if turns are not permitted; some have none.
 				tooth.To.Turn = tooth.From.Turn
 			}
 		}

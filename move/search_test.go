@@ -35,6 +35,14 @@ func TestErrorsOfSearches(t *testing.T) {
 	}
 }
 
+// tall returns a case in which nothing moves, of a tooth with some height and of one that has 241 places.
+func tall(height int) move.Case {
+	return move.Case{High: at(0, 1, 240), Teeth: []move.Tooth{
+		{Name: "a", Cells: append(row(height), at(0, 1, 0))},
+		{Name: "b", Cells: []api.Cell{at(0, 0, 0), at(0, 1, 0)}, From: to(0, 0, 240), To: to(0, 0, 240)},
+	}}
+}
+
 // TestSmallCases: of 4096 places and products a case is small, of more it is not.
 func TestSmallCases(t *testing.T) {
 	tooth := one("a", to(0, 0, 0), to(0, 0, 0))
@@ -59,6 +67,12 @@ func TestSmallCases(t *testing.T) {
 		{"shifts that are in the grid alone", move.Case{High: at(1000, 0, 0), Shift: 8, Teeth: []move.Tooth{{Name: "a", Cells: []api.Cell{at(-1000, 0, 0)}, From: to(1000, 0, 0), To: to(1000, 0, 0)}}}, true, 1},
 		{"shifts that are in the grid alone, from the other side", move.Case{Low: at(-1000, -1000, -1000), High: at(1000, 1000, 1000), Shift: 8, Teeth: []move.Tooth{{Name: "a", Cells: []api.Cell{at(997, 999, 998)}, From: to(0, 0, 0), To: to(0, 0, 0)}}}, false, 0},
 		{"a few shifts in the greatest box", move.Case{Low: at(-1000, -1000, -1000), High: at(-998, -999, -1000), Shift: 8, Teeth: []move.Tooth{{Name: "a", Cells: []api.Cell{at(1, 1, 0)}, From: to(-1000, -1000, -1000), To: to(-999, -1000, -1000)}}}, true, 2},
+		{"two shifts that are in the grid, along X", move.Case{High: at(1000, 0, 0), Shift: 1, Teeth: []move.Tooth{{Name: "a", Cells: []api.Cell{at(-999, 0, 0)}, From: to(1000, 0, 0), To: to(999, 0, 0)}}}, true, 2},
+		{"two shifts that are in the grid, along Y", move.Case{High: at(0, 1000, 0), Shift: 1, Teeth: []move.Tooth{{Name: "a", Cells: []api.Cell{at(0, -999, 0)}, From: to(0, 1000, 0), To: to(0, 999, 0)}}}, true, 2},
+		{"two shifts that are in the grid, along Z", move.Case{High: at(0, 0, 1000), Shift: 1, Teeth: []move.Tooth{{Name: "a", Cells: []api.Cell{at(0, 0, -999)}, From: to(0, 0, 1000), To: to(0, 0, 999)}}}, true, 2},
+		{"two teeth with 17 and 241 places", tall(225), false, 0},
+		{"two teeth with 16 and 241 places", tall(226), true, 1},
+		{"the turn of From, if none is permitted", move.Case{High: at(9, 0, 1), Shift: 1, Teeth: []move.Tooth{{Name: "a", Cells: []api.Cell{at(0, 0, 0), at(1, 0, 0)}, From: to(1, 0, 0, 2), To: to(0, 0, 0)}}}, true, 18},
 		{"no teeth", move.Case{}, true, 1},
 	} {
 		if !f.isSmall {
