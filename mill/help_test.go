@@ -313,25 +313,23 @@ func placesIn(n mill.Nest, part []api.Cell) []mill.Place {
 	return l
 }
 
-// firstGood returns the first good places by the definition.
-func firstGood(n mill.Nest) ([]mill.Place, bool) {
-	all := [][]mill.Place{nil}
-	for _, part := range n.Parts {
-		var longer [][]mill.Place
-		places := placesIn(n, part)
-		for _, l := range all {
-			for _, p := range places {
-				if with := append(slices.Clone(l), p); errorOf(n, with) == api.OK {
-					longer = append(longer, with)
-				}
-			}
+// firstGood returns the first good places by the definition: it tries all lists in their order.
+func firstGood(n mill.Nest, chosen ...[]api.Cell) ([]mill.Place, bool) {
+	if len(chosen) == len(n.Parts) {
+		return nil, true
+	}
+	part := n.Parts[len(chosen)]
+	for _, p := range placesIn(n, part) {
+		there := placed(part, p)
+		isNear := func(other []api.Cell) bool { return apart(there, other) <= n.Gap }
+		if slices.ContainsFunc(chosen, isNear) {
+			continue
 		}
-		all = longer
+		if rest, isGood := firstGood(n, append(slices.Clone(chosen), there)...); isGood {
+			return append([]mill.Place{p}, rest...), true
+		}
 	}
-	if len(all) == 0 {
-		return nil, false
-	}
-	return all[0], true
+	return nil, false
 }
 
 // with returns a nest of some parts of another one.
