@@ -27,16 +27,16 @@ func Filling(n Nest) (api.Rat, api.Errno) {
 	return grid.Of(n.cells(), volume(n.Blank))
 }
 
-// length returns the number of cells from a cell to the wall of the blank, and whether none of them is taken.
-func (n Nest) length(s Sprue, taken map[api.Cell]bool) (int, bool) {
-	length := 0
-	for c := plus(s.From, directions[s.Dir]); isIn(n.Blank, c); c = plus(c, directions[s.Dir]) {
+// sprue returns the line from a cell in a direction to the wall of the blank, and whether no cell of it is taken.
+func (n Nest) sprue(from api.Cell, dir int, taken map[api.Cell]bool) (Sprue, bool) {
+	s := Sprue{From: from, Dir: dir}
+	for c := plus(from, directions[dir]); isIn(n.Blank, c); c = plus(c, directions[dir]) {
 		if taken[c] {
-			return 0, false
+			return Sprue{}, false
 		}
-		length++
+		s.Length++
 	}
-	return length, true
+	return s, true
 }
 
 // sprues returns all sprues of a part that is put into the blank with others, by their cells, then by their directions.
@@ -48,8 +48,7 @@ func (n Nest) sprues(parts [][]api.Cell, part int) []Sprue {
 	var l []Sprue
 	for _, c := range parts[part] {
 		for dir := 1; dir < len(directions); dir++ {
-			s, isFree := Sprue{From: c, Dir: dir}, false
-			if s.Length, isFree = n.length(s, taken); isFree {
+			if s, isFree := n.sprue(c, dir, taken); isFree {
 				l = append(l, s)
 			}
 		}

@@ -62,8 +62,8 @@ func Why(n Nest) (Reason, api.Errno) {
 // CheckWhy returns OK for a reason that holds.
 func CheckWhy(n Nest, r Reason) api.Errno {
 	t, e := tableOf(n)
-	kinds := []string{"single", "volume", "pair", "all"}
-	if e := first(e, when(!slices.Contains(kinds, r.Kind), api.ErrKind)); e != api.OK {
+	names := []string{"single", "volume", "pair", "all"}
+	if e := first(e, when(!slices.Contains(names, r.Kind), api.ErrKind)); e != api.OK {
 		return e
 	}
 	why, e := t.why()
