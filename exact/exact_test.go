@@ -155,14 +155,14 @@ func TestValues(t *testing.T) {
 		}
 		by := 1 + r.IntN([]int{1, 2000, 1 << 62}[r.IntN(3)])
 		sum.Quo(sum, big.NewRat(int64(by), 1))
-		wanted, error := api.Rat(sum.RatString()), api.OK
+		wanted, fault := api.Rat(sum.RatString()), api.OK
 		if isLarge(sum) {
-			wanted, error = "", api.ErrLarge
+			wanted, fault = "", api.ErrLarge
 			large++
 		}
 		got, e := exact.Value(by, terms...)
-		if got != wanted || e != error {
-			t.Fatalf("the value of %v by %d: got %s and %d, want %s and %d", terms, by, got, e, wanted, error)
+		if got != wanted || e != fault {
+			t.Fatalf("the value of %v by %d: got %s and %d, want %s and %d", terms, by, got, e, wanted, fault)
 		}
 		if len(got) > 600 {
 			long++
